@@ -173,7 +173,7 @@ func TestMatch(t *testing.T) {
 	}
 }
 
-// TestMatchOfNothing: a row without ranges is matched by no bytes, and by nothing else; no rows are matched by nothing at all.
+// TestMatchOfNothing: a row without ranges matches a b of length 0, and no other; where there are no rows, no b is matched.
 func TestMatchOfNothing(t *testing.T) {
 	for _, none := range [][][]api.Range{nil, {}} {
 		if seqs.Match(none, nil) || seqs.Match(none, []byte{}) || seqs.Match(none, []byte("a")) {
