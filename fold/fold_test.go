@@ -1,0 +1,135 @@
+package fold_test
+
+import (
+	"math"
+	"slices"
+	"testing"
+
+	"glyphcutter/api"
+	"glyphcutter/fold"
+)
+
+// spans takes Lo and Hi in turn.
+func spans(n ...int) []api.Span {
+	var out []api.Span
+	for i := 0; i+1 < len(n); i += 2 {
+		out = append(out, api.Span{Lo: n[i], Hi: n[i+1]})
+	}
+	return out
+}
+
+func isScalar(r int) bool { return r >= 0 && r <= 0x10ffff && (r < 0xd800 || r > 0xdfff) }
+
+// noScalars are numbers that are none: beside the scalars, far from them, and such as are one in their last bits.
+var noScalars = []int{
+	math.MinInt, math.MinInt + 0x41, -0x41, -32, -1, api.Bad, 0xd800, 0xd801, 0xdabc, 0xdfff,
+	0x110000, 0x110041, 1<<32 + 0x41, 1<<32 + 0x6b, math.MaxInt - 32, math.MaxInt,
+}
+
+func TestFold(t *testing.T) {
+	for r, want := range map[int]int{
+		0: 0, '1': '1', ' ': ' ',
+		0x40: 0x40, 'A': 'a', 'K': 'k', 'Z': 'z', 0x5b: 0x5b, 0x60: 0x60, 'a': 'a', 'k': 'k', 'z': 'z', 0x7b: 0x7b,
+		0xb4: 0xb4, 0xb5: 0x3bc, 0xb6: 0xb6,
+		0xbf: 0xbf, 0xc0: 0xe0, 0xc5: 0xe5, 0xd6: 0xf6, 0xd7: 0xd7, 0xd8: 0xf8, 0xde: 0xfe, 0xdf: 0xdf, 0xe0: 0xe0, 0xf7: 0xf7, 0xff: 0xff,
+		0x100: 0x100, 0x130: 0x130, 0x178: 0x178, 0x17f: 0x17f, // letters, but not of the part that is folded
+		0x386: 0x386, 0x390: 0x390, 0x391: 0x3b1, 0x39c: 0x3bc, 0x3a1: 0x3c1, 0x3a2: 0x3a2, 0x3a3: 0x3c3, 0x3a9: 0x3c9, 0x3aa: 0x3aa,
+		0x3b1: 0x3b1, 0x3bc: 0x3bc, 0x3c1: 0x3c1, 0x3c2: 0x3c3, 0x3c3: 0x3c3, 0x3c9: 0x3c9, 0x3d0: 0x3d0,
+		0x3ff: 0x3ff, 0x400: 0x450, 0x40f: 0x45f, 0x410: 0x430, 0x42f: 0x44f, 0x430: 0x430, 0x44f: 0x44f, 0x450: 0x450, 0x45f: 0x45f, 0x460: 0x460,
+		0x1e9d: 0x1e9d, 0x1e9e: 0xdf, 0x1e9f: 0x1e9f,
+		0x2125: 0x2125, 0x2126: 0x3c9, 0x2127: 0x2127, 0x2129: 0x2129, 0x212a: 0x6b, 0x212b: 0xe5, 0x212c: 0x212c,
+		0xd7ff: 0xd7ff, 0xe000: 0xe000, 0xff21: 0xff21, 0x10400: 0x10400, 0x10ffff: 0x10ffff,
+	} {
+		if got := fold.Fold(r); got != want {
+			t.Errorf("Fold of %x: %x, want %x", r, got, want)
+		}
+	}
+}
+
+// TestFoldOfNoScalar: any other number is as it was, be it a scalar or not.
+func TestFoldOfNoScalar(t *testing.T) {
+	for _, r := range noScalars {
+		if got := fold.Fold(r); got != r {
+			t.Errorf("Fold of %x: %x", r, got)
+		}
+	}
+}
+
+// orbits are such as have more than one scalar in them, and some of one.
+func orbits() [][]int {
+	return [][]int{
+		{0}, {'1'}, {0x40}, {0x5b}, {0x60}, {0x7b}, {0xd7}, {0xf7}, {0xff}, {0x100}, {0x3a2}, {0x460}, {0xd7ff}, {0xe000}, {0x10ffff},
+		{'A', 'a'}, {'Z', 'z'}, {'K', 'k', 0x212a},
+		{0xb5, 0x39c, 0x3bc}, {0xc0, 0xe0}, {0xc5, 0xe5, 0x212b}, {0xd6, 0xf6}, {0xd8, 0xf8}, {0xde, 0xfe}, {0xdf, 0x1e9e},
+		{0x391, 0x3b1}, {0x3a1, 0x3c1}, {0x3a3, 0x3c2, 0x3c3}, {0x3a9, 0x3c9, 0x2126},
+		{0x400, 0x450}, {0x40f, 0x45f}, {0x410, 0x430}, {0x42f, 0x44f},
+	}
+}
+
+// TestOrbit asks of each scalar of an orbit: all tell the same.
+func TestOrbit(t *testing.T) {
+	for _, want := range orbits() {
+		for _, r := range want {
+			if got := fold.Orbit(r); !slices.Equal(got, want) {
+				t.Errorf("Orbit of %x: %x, want %x", r, got, want)
+			}
+		}
+	}
+}
+
+func TestOrbitOfNoScalar(t *testing.T) {
+	for _, r := range noScalars {
+		if got := fold.Orbit(r); len(got) != 0 {
+			t.Errorf("Orbit of %x: %x, want nothing", r, got)
+		}
+	}
+	for r := 0xd800; r <= 0xdfff; r++ {
+		if got := fold.Orbit(r); len(got) != 0 {
+			t.Errorf("Orbit of the surrogate %x: %x, want nothing", r, got)
+		}
+	}
+}
+
+func TestClose(t *testing.T) {
+	for _, c := range []struct {
+		what    string
+		l, want []api.Span
+	}{
+		{"nil", nil, nil},
+		{"empty", []api.Span{}, nil},
+		{"the example", spans('k', 'k'), spans('K', 'K', 'k', 'k', 0x212a, 0x212a)},
+		{"a great letter", spans('K', 'K'), spans('K', 'K', 'k', 'k', 0x212a, 0x212a)},
+		{"a sign for a letter", spans(0x212a, 0x212a), spans('K', 'K', 'k', 'k', 0x212a, 0x212a)},
+		{"no letter", spans('0', '9'), spans('0', '9')},
+		{"one of an orbit of one", spans(0xd7, 0xd7, 0x3a2, 0x3a2), spans(0xd7, 0xd7, 0x3a2, 0x3a2)},
+		{"great letters", spans('A', 'Z'), spans('A', 'Z', 'a', 'z', 0x212a, 0x212a)},
+		{"small letters", spans('a', 'z'), spans('A', 'Z', 'a', 'z', 0x212a, 0x212a)},
+		{"some great, some small", spans('b', 'd', 'C', 'E'), spans('B', 'E', 'b', 'e')},
+		{"over the edges of a run", spans(0x3f, 'B', 'y', 0x7b), spans(0x3f, 'B', 'Y', 'Z', 'a', 'b', 'y', 0x7b)},
+		{"small letters over a sign", spans(0xf6, 0xf8), spans(0xd6, 0xd6, 0xd8, 0xd8, 0xf6, 0xf8)},
+		{"great letters over a sign", spans(0xd6, 0xd8), spans(0xd6, 0xd8, 0xf6, 0xf6, 0xf8, 0xf8)},
+		{"sharp s", spans(0xdf, 0xdf), spans(0xdf, 0xdf, 0x1e9e, 0x1e9e)},
+		{"micro", spans(0xb5, 0xb5), spans(0xb5, 0xb5, 0x39c, 0x39c, 0x3bc, 0x3bc)},
+		{"sigma at the end", spans(0x3c2, 0x3c2), spans(0x3a3, 0x3a3, 0x3c2, 0x3c3)},
+		{"small letters of greek", spans(0x3b1, 0x3c9), spans(0xb5, 0xb5, 0x391, 0x3a1, 0x3a3, 0x3a9, 0x3b1, 0x3c9, 0x2126, 0x2126)},
+		{"great letters of greek", spans(0x391, 0x3a9), spans(0xb5, 0xb5, 0x391, 0x3a9, 0x3b1, 0x3c9, 0x2126, 0x2126)},
+		{"small letters of cyrillic", spans(0x430, 0x45f), spans(0x400, 0x45f)},
+		{"signs for letters", spans(0x2126, 0x212b), spans('K', 'K', 'k', 'k', 0xc5, 0xc5, 0xe5, 0xe5, 0x3a9, 0x3a9, 0x3c9, 0x3c9, 0x2126, 0x212b)},
+		{"spans that touch, falling", spans('c', 'd', 'a', 'b'), spans('A', 'D', 'a', 'd')},
+		{"the same twice", spans('a', 'c', 'a', 'c', 'b', 'b'), spans('A', 'C', 'a', 'c')},
+		{"Lo above Hi", spans('z', 'a', 'Z', 'A', math.MaxInt, math.MinInt), nil},
+		{"a wrong one hides no later one", spans('z', 'a', 'q', 'q'), spans('Q', 'Q', 'q', 'q')},
+		{"surrogates", spans(0xd800, 0xdfff), nil},
+		{"over the surrogates", spans(0xd7ff, 0xe000), spans(0xd7ff, 0xd7ff, 0xe000, 0xe000)},
+		{"below 0", spans(math.MinInt, -1), nil},
+		{"above 10ffff", spans(0x110000, math.MaxInt), nil},
+		{"from below 0", spans(math.MinInt, 'A'), spans(0, 'A', 'a', 'a')},
+		{"to the greatest number", spans(0x212b, math.MaxInt), spans(0xc5, 0xc5, 0xe5, 0xe5, 0x212b, 0xd7ff, 0xe000, 0x10ffff)},
+		{"all", spans(0, 0x10ffff), spans(0, 0xd7ff, 0xe000, 0x10ffff)},
+		{"all numbers", spans(math.MinInt, math.MaxInt), spans(0, 0xd7ff, 0xe000, 0x10ffff)},
+	} {
+		if got := fold.Close(c.l); !slices.Equal(got, c.want) {
+			t.Errorf("Close of %s: %x, want %x", c.what, got, c.want)
+		}
+	}
+}
