@@ -68,7 +68,8 @@ func draw(l []api.Node) api.Nfa {
 	var d drawn
 	d.add()
 	for i, n := range l {
-		d.n.Tags[d.forked(n, 0)] = i
+		end := d.forked(n, 0)
+		d.n.Tags[end] = i
 	}
 	return d.n
 }

@@ -152,7 +152,8 @@ func (r *reader) group() api.Node {
 func (r *reader) named() api.Node {
 	at := r.at
 	r.need("{")
-	name := r.some(1, letter()) + r.run(len(r.text), either(letter(), digit()))
+	name := r.some(1, letter())
+	name += r.run(len(r.text), either(letter(), digit()))
 	r.need("}")
 	place := slices.IndexFunc(r.defs, func(d api.Def) bool { return d.Name == name })
 	if place < 0 {
